@@ -47,9 +47,9 @@ func CurveText(c api.Curve) (string, api.Errno) {
 // CurveParse reads a curve. (P1.15)
 func CurveParse(s string) (api.Curve, api.Errno) {
 	var c api.Curve
-	for point := range strings.SplitSeq(s, betweenPoints) {
+	for _, point := range strings.SplitN(s, betweenPoints, api.MaxCurve+1) { // one point too many shows that there are too many
 		x, y, ok := readPair(point, betweenXY)
-		if !ok || len(c.X) == api.MaxCurve { // there is no need to read a long text to its end
+		if !ok {
 			return api.Curve{}, api.ErrForm
 		}
 		c.X, c.Y = append(c.X, x), append(c.Y, y)
